@@ -156,8 +156,15 @@ func TestPages(t *testing.T) {
 		}
 		texts := []string{"", "a", "a/", "a/b", "a0", "b", "b-", "z", "zz", "zzz", "k", "k0", "k00", "k010", "k019", "k020", "k021", "k039", "k04", "A", " ", "~", "\x00", "\xff", "{", "`", xs(40), xs(41), strings.Repeat("z", 38), strings.Repeat("z", 39), all()}
 		for _, e := range s.L[:min(6, len(s.L))] {
-			texts = append(texts, e.Key, e.Key+"x", e.Key+"\x00", e.Key[:len(e.Key)-1], e.Key[1:])
+			texts = append(texts, e.Key, e.Key+"x", e.Key+"\x00", e.Key[1:])
 		}
+		for _, e := range s.L {
+			for n := range min(5, len(e.Key)) {
+				texts = append(texts, e.Key[:n])
+			}
+		}
+		slices.Sort(texts)
+		texts = slices.Compact(texts)
 		for _, prefix := range texts {
 			for _, after := range texts {
 				pages(t, s, prefix, after)
