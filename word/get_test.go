@@ -156,8 +156,7 @@ func TestGetOfBytesChangedForOthers(t *testing.T) {
 		t.Run(fmt.Sprint("the word ", k), func(t *testing.T) {
 			t.Parallel()
 			for at := range s {
-				// Of a long text not those that are far from each other.
-				for other := max(0, at-200); other < at; other++ {
+				for other := range at {
 					if s[at] != s[other] {
 						b := []byte(s)
 						b[at], b[other] = b[other], b[at]
