@@ -100,7 +100,7 @@ func picker(r *rand.Rand) func() api.Word {
 func TestRows(t *testing.T) {
 	t.Parallel()
 	empty, full := 0, 0
-	for seed := range 30 {
+	for seed := range 15 {
 		r := rand.New(rand.NewSource(int64(seed)))
 		pick, f, m := picker(r), flock.New(), &model{}
 		for k := range 1500 {
