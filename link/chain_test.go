@@ -361,7 +361,7 @@ func TestChains(t *testing.T) {
 				epochs, ended = epochs+w.chief.Roster().Epoch, ended+w.ended
 			}
 			// A test of the test: it has to be about something.
-			if ended < 1000 || n > 1 && epochs < 50 {
+			if ended < 500 || n > 1 && epochs < 20 {
 				t.Errorf("%d answers in %d epochs", ended, epochs)
 			}
 		})

@@ -79,10 +79,7 @@ func goesOn(r replica, scribbling bool) []api.Word {
 			scribbles(l)
 		}
 	}
-	next := 0
-	if k := slices.Index(r.Roster().L, r.id); k >= 0 && k+1 < len(r.Roster().L) {
-		next = r.Roster().L[k+1]
-	}
+	next := r.next()
 	for range 2 {
 		tell(r.Tick(1))
 		tell(r.Step(need(next, r.id, r.Shelf().Book().Seq, 0), 1))
@@ -157,7 +154,7 @@ func TestAnswersBesideEachOther(t *testing.T) {
 	laden := api.Word{Kind: api.WDone, From: 4, To: 1, Epoch: epoch, Req: req(1, 5), Deeds: others(2), Roster: of(4, 2, 1, 2), State: other()}
 	for _, p := range places(t) {
 		r := p.make(4, 9)
-		next := map[string]int{"the head": 1, "the middle": 4, "the head of two": 4, "ahead of the new one": 5, "far ahead of the new one": 1}[p.what]
+		next := r.next()
 		laden.To, laden.From, laden.Req = r.id, r.id%5+1, req(r.id, 5)
 		for k, call := range []func() []api.Word{
 			func() []api.Word { return r.Tick(1) },

@@ -12,7 +12,7 @@ func TestNeed(t *testing.T) {
 	for _, p := range places(t)[:7] {
 		for _, waits := range []int{0, 1, 6, 9, 60} {
 			r := p.make(4, waits)
-			next := map[string]int{"the head": 1, "the middle": 4, "the head of two": 4, "ahead of the new one": 5, "far ahead of the new one": 1}[p.what]
+			next := r.next()
 			if next == 0 {
 				continue
 			}
@@ -43,14 +43,7 @@ func TestNeed(t *testing.T) {
 func TestNeedFromOthers(t *testing.T) {
 	for _, p := range places(t) {
 		r := p.make(4, 9)
-		k := 0
-		for k < len(r.Roster().L) && r.Roster().L[k] != r.id {
-			k++
-		}
-		for from := range 6 {
-			if from == r.id || k+1 < len(r.Roster().L) && from == r.Roster().L[k+1] {
-				continue
-			}
+		for _, from := range r.strangers() {
 			for _, q := range []int64{0, 3, 4, 5, 9, 12, 13, 14} {
 				for n := range int64(3) {
 					nothing(t, fmt.Sprint(p.what, ": a WNeed from ", from), r, need(from, r.id, q, n), 1)
@@ -84,7 +77,7 @@ func TestNeedOfAll(t *testing.T) {
 // At the head and in the middle: 4 are committed, 9 wait.
 func TestAck(t *testing.T) {
 	for _, p := range places(t)[:7] {
-		next := map[string]int{"the head": 1, "the middle": 4, "the head of two": 4, "ahead of the new one": 5, "far ahead of the new one": 1}[p.what]
+		next := p.make(0, 0).next()
 		if next == 0 {
 			continue
 		}
@@ -114,14 +107,7 @@ func TestAck(t *testing.T) {
 func TestAckFromOthers(t *testing.T) {
 	for _, p := range places(t) {
 		r := p.make(4, 9)
-		k := 0
-		for k < len(r.Roster().L) && r.Roster().L[k] != r.id {
-			k++
-		}
-		for from := range 6 {
-			if from == r.id || k+1 < len(r.Roster().L) && from == r.Roster().L[k+1] {
-				continue
-			}
+		for _, from := range r.strangers() {
 			for _, seq := range []int64{0, 4, 5, 13, 14} {
 				nothing(t, fmt.Sprint(p.what, ": a WAck from ", from), r, ack(from, r.id, seq), 1)
 			}

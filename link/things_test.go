@@ -199,6 +199,27 @@ func places(t testing.TB) []place {
 	}
 }
 
+// next is the node behind r in its chain, 0 where there is none.
+func (r replica) next() int {
+	l := r.Roster().L
+	k := slices.Index(l, r.id)
+	if k < 0 || k+1 == len(l) {
+		return 0
+	}
+	return l[k+1]
+}
+
+// strangers are all who are neither r nor the node behind it, the chief too.
+func (r replica) strangers() []int {
+	l := []int{}
+	for n := range 6 {
+		if n != r.id && (n == 0 || n != r.next()) {
+			l = append(l, n)
+		}
+	}
+	return l
+}
+
 // plain is w with nil in the place of each empty list.
 func plain(w api.Word) api.Word {
 	w = clone(w)

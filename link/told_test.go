@@ -216,3 +216,22 @@ func TestWordsForTheChief(t *testing.T) {
 		}
 	}
 }
+
+// A tail on whose shelf somebody puts a deed: what is told as committed is the Book's, what is acknowledged the shelf's.
+func TestTailWhereOneWaits(t *testing.T) {
+	r := placed(made(t, 4, 4, 0), 0, 3, 1, 4)
+	r.Shelf().Add(nth(5))
+	says(t, "a WAsk", r.Step(ask(3, 4, 77), 1), told(4, 3, 77, 4))
+	says(t, "Ask", r.Ask(77, 1))
+	has(t, "Ask", r, told(4, 4, 77, 4))
+	says(t, "Tick", r.Tick(1), beat(4, epoch), ack(4, 1, 5))
+	says(t, "a WPass of none", r.Step(pass(1, 4, 5), 1), ack(4, 1, 5))
+	says(t, "a WPass that is ahead", r.Step(pass(1, 4, 6), 1), need(4, 1, 5, 0))
+	if r.Ready(nth(5).Key, 1) || r.Ready("", 1) || !r.Ready("none", 1) || r.Shelf().Book().Seq != 4 {
+		t.Errorf("P13.2: a deed waits: %v", r.known())
+	}
+	// All that wait are committed with the next one, each is told to who wrote it.
+	want, results := r.known().add(nth(6)).commit(2)
+	says(t, "a WPass", r.Step(pass(1, 4, 5, nth(6)), 1), done(4, nth(5), results[0]), done(4, nth(6), results[1]), ack(4, 1, 6))
+	knows(t, "a WPass", r, want)
+}
